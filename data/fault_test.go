@@ -214,12 +214,13 @@ func TestP132EachFault(t *testing.T) {
 	}
 }
 
-// TestP132TwoFaults: one and another one; of those alike, at far ends of the list, some are left out.
+// TestP132TwoFaults: one and another one. Of those that are of the same make, at other places, some are left out.
 func TestP132TwoFaults(t *testing.T) {
 	l := spoilers()
+	tooMany := func(name string) bool { return name == "datas29" || name == "cons78" }
 	for i, x := range l {
 		for k, y := range l {
-			if (i+7*k)%13 == 0 || strings.Contains(x.name, "kind") && strings.Contains(y.name, "name") {
+			if (i+7*k)%13 == 0 || strings.Contains(x.name, "kind") && strings.Contains(y.name, "name") || tooMany(x.name) || tooMany(y.name) {
 				if !asModel(t, y.do(x.do(base()))) {
 					t.Fatal(x.name, " ", y.name)
 				}
