@@ -3,7 +3,6 @@ package data
 import (
 	"fmt"
 	"slices"
-	"strings"
 	"sync"
 	"testing"
 
@@ -214,13 +213,22 @@ func TestP132EachFault(t *testing.T) {
 	}
 }
 
-// TestP132TwoFaults: one and another one. Of those that are of the same make, at other places, some are left out.
+// TestP132TwoFaults: each error at each place with each other one; of spoilers that come to the same error at the same place, some pairs.
 func TestP132TwoFaults(t *testing.T) {
+	told := map[api.Diag]bool{{}: true}
+	first := map[string]bool{"datas29": true, "cons78": true}
 	l := spoilers()
-	tooMany := func(name string) bool { return name == "datas29" || name == "cons78" }
+	for _, x := range l {
+		_, d := Check(x.do(base()))
+		first[x.name] = first[x.name] || !told[d]
+		told[d] = true
+	}
+	if len(told) < 60 {
+		t.Error(len(told))
+	}
 	for i, x := range l {
 		for k, y := range l {
-			if (i+7*k)%13 == 0 || strings.Contains(x.name, "kind") && strings.Contains(y.name, "name") || tooMany(x.name) || tooMany(y.name) {
+			if first[x.name] && first[y.name] || (i+7*k)%23 == 0 {
 				if !asModel(t, y.do(x.do(base()))) {
 					t.Fatal(x.name, " ", y.name)
 				}
